@@ -148,13 +148,10 @@ func (l *ledger) asks(text string) string {
 	}
 	var out []string
 	for _, a := range answered(l.events(), impl.QueryRead(text).Query) {
-		switch {
-		case a.Seq != 0:
+		if a.Seq != 0 {
 			out = append(out, fmt.Sprint(a.Seq))
-		case a.Label == "":
-			out = append(out, fmt.Sprint(a.N))
-		default:
-			out = append(out, fmt.Sprint(a.Label, ":", a.N))
+		} else {
+			out = append(out, fmt.Sprintf("%s:%d", a.Label, a.N))
 		}
 	}
 	return dashed(out, " ")
@@ -279,9 +276,11 @@ func someWrongEvent(source *rand.Rand) string {
 	return out + " " + word()
 }
 
-// someAsking: a line that asks, most often a right query.
+// someAsking: a line that asks, most often a right query; as often one that counts as any.
 func someAsking(source *rand.Rand) string {
-	q := somePick(source, eachEnd()...)
+	ends := eachEnd()
+	counts := slices.DeleteFunc(slices.Clone(ends), func(q impl.Query) bool { return !q.Count })
+	q := somePick(source, somePick(source, ends, counts)...)
 	q.Conds = someConds(source, source.Intn(3))
 	text := strings.ReplaceAll(written(q), " ", somePick(source, " ", " ", "  "))
 	return "ask " + somePick(source, text, text, text, " "+text+" ", text[:source.Intn(len(text)+1)], "")

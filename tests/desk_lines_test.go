@@ -131,7 +131,7 @@ func TestDeskSet(t *testing.T) {
 		turn{"ask find where kind = set", "2 3 4 5 6"},
 		turn{"ask count where kind = set by step", "a:2 " + longWord(20) + ":1 x:2"},
 		turn{"ask count where kind = set by value", "007:1 A=1,(-):1 v:2 " + strings.Repeat("v", 40) + ":1"},
-		turn{"ask count where value = v", "2"})
+		turn{"ask count where value = v", ":2"})
 }
 
 func TestDeskSetAtManyNames(t *testing.T) {
@@ -197,25 +197,47 @@ func TestDeskAskFind(t *testing.T) {
 
 func TestDeskAskCount(t *testing.T) {
 	wantTurns(t, append(askedTurns(),
-		turn{"ask count", "11"},
-		turn{"ask count where kind = set", "2"},
-		turn{"ask count where kind = end", "0"},
+		turn{"ask count", ":11"},
+		turn{"ask count where kind = set", ":2"},
+		turn{"ask count where kind = end", ":0"},
 		turn{"ask count by seq", "1:1 2:1 3:1 4:1 5:1 6:1 7:1 8:1 9:1 10:1 11:1"},
 		turn{"ask count by time", "0:1 3:2 4:1 5:1 10:1 11:1 12:2 13:1 14:1"},
 		turn{"ask count by run", "9:7 10:4"},
 		turn{"ask count by kind", "enter:4 fault:1 leave:2 set:2 start:2"},
-		turn{"ask count by step", "2 a:5 b:1 c:1 x:1 y:1"},
-		turn{"ask count by value", "9 a:1 v:1"},
+		turn{"ask count by step", ":2 a:5 b:1 c:1 x:1 y:1"},
+		turn{"ask count by value", ":9 a:1 v:1"},
 		turn{"ask count where kind = set by value", "a:1 v:1"},
 		turn{"ask count where kind = end by run", "-"},
 		turn{"ask count where seq > 11 by kind", "-"})...)
-	wantTurns(t, turn{"ask count", "0"}, turn{"ask count by run", "-"}, turn{"ask count by value", "-"})
+	wantTurns(t, turn{"ask count", ":0"}, turn{"ask count by run", "-"}, turn{"ask count by value", "-"})
+}
+
+// Of an Answer without a Seq the `:` is told also where its Label is empty.
+func TestDeskAskWithoutALabel(t *testing.T) {
+	wantTurns(t,
+		turn{"ask count", ":0"},
+		turn{"start 0 1", "ok"},
+		turn{"ask count", ":1"},
+		turn{"ask count by step", ":1"},
+		turn{"ask count by value", ":1"},
+		turn{"ask count by kind", "start:1"},
+		turn{"enter 1 1 a", "ok"},
+		turn{"ask count by step", ":1 a:1"},
+		turn{"ask count by value", ":2"},
+		turn{"ask count where kind = enter by step", "a:1"},
+		turn{"ask count where kind != enter by step", ":1"},
+		turn{"set 2 1 x :", "ok"},
+		turn{"ask count by value", ":2 ::1"},
+		turn{"ask count where kind = set by value", "::1"},
+		turn{"ask count where step = b by step", "-"},
+		turn{"ask count where step = b", ":0"},
+		turn{"ask find where step = x", "3"})
 }
 
 func TestDeskAskBlanks(t *testing.T) {
 	wantTurns(t, append(askedTurns(),
-		turn{"ask  count", "11"},
-		turn{"ask count ", "11"},
+		turn{"ask  count", ":11"},
+		turn{"ask count ", ":11"},
 		turn{"ask    count   by   run  ", "9:7 10:4"},
 		turn{"ask  find  where run  = 10 ", "2 4 5 8"},
 		turn{"ask ", "error 3 0"},
@@ -337,7 +359,7 @@ func TestDeskClean(t *testing.T) {
 		turn{"times", "-"},
 		turn{"clean 1000000", "ok 0"})...)
 	both := append(allOk(course(1, 0, 1, 1, 1, 1)), allOk(course(2, 5, 0, 0, 0, 0))...)
-	wantTurns(t, append(both, turn{"clean 5", "ok 2"}, turn{"ask find", "-"}, turn{"ask count", "0"})...)
+	wantTurns(t, append(both, turn{"clean 5", "ok 2"}, turn{"ask find", "-"}, turn{"ask count", ":0"})...)
 }
 
 func TestDeskSync(t *testing.T) {
@@ -394,7 +416,7 @@ func TestDeskCrashTakesBackACleaning(t *testing.T) {
 	wantTurns(t, append(allOk(course(1, 0, 1, 1, 1, 1)),
 		turn{"sync", "synced"},
 		turn{"clean 4", "ok 1"},
-		turn{"ask count", "0"},
+		turn{"ask count", ":0"},
 		turn{"crash 0", "events 10"},
 		turn{"asof 1 4", "2 - - 0"},
 		turn{"times", "a:1,1 b:1,1 c:2,2"},
@@ -413,7 +435,7 @@ func TestDeskCrashTakesBackACleaning(t *testing.T) {
 func TestDesksAreNewEachTime(t *testing.T) {
 	text := deskText("ask count", "start 0 1", "sync", "ask find")
 	for range 3 {
-		wantDesk(t, "the same desk again", text, impl.DeskOut{Text: "0\nok\nsynced\n1\n"})
+		wantDesk(t, "the same desk again", text, impl.DeskOut{Text: ":0\nok\nsynced\n1\n"})
 		wantDesk(t, "another desk", deskText("ask find", "asof 1 0"), impl.DeskOut{Text: "-\nerror 6\n"})
 	}
 }

@@ -54,7 +54,7 @@ func TestEachLineOfADeskTellsALine(t *testing.T) {
 func TestDesksAsTheDocumentSays(t *testing.T) {
 	source := rand.New(rand.NewSource(112))
 	words := map[string]int{}
-	for range 300 {
+	for range 600 {
 		text := deskText(someDesk(source, 25+source.Intn(16))...)
 		want := desked(text)
 		wantDesk(t, fmt.Sprintf("%q", text), text, want)
@@ -63,7 +63,7 @@ func TestDesksAsTheDocumentSays(t *testing.T) {
 			words[first]++
 		}
 	}
-	for _, word := range []string{"ok", "error", "synced", "events", "-", "0", "1", "2"} {
+	for _, word := range []string{"ok", "error", "synced", "events", "-", "0", "1", "2", ":0"} {
 		if words[word] < 20 {
 			t.Errorf("%q was told %d times, too few to tell", word, words[word])
 		}
@@ -130,12 +130,12 @@ func TestRunsAreFoundAndCounted(t *testing.T) {
 			turn{"ask find where run = 9", strings.Join(linesOf(lines, 9), " ")},
 			turn{"ask find where run = 500", strings.Join(linesOf(lines, 500), " ")},
 			turn{"ask find where run = 5", "-"},
-			turn{"ask count where run = 9", "10"},
+			turn{"ask count where run = 9", ":10"},
 			turn{"ask count by run", fmt.Sprintf("4:10 9:10 500:%d", len(third))},
-			turn{"ask count where kind = end", "2"},
+			turn{"ask count where kind = end", ":2"},
 			turn{"ask count where kind = end by run", "4:1 9:1"},
 			turn{"ask count where run < 10 and kind = leave by step", "a:2 b:2 c:4"},
-			turn{"ask count", fmt.Sprint(len(lines))})...)
+			turn{"ask count", fmt.Sprintf(":%d", len(lines))})...)
 	}
 }
 
@@ -210,7 +210,7 @@ func TestACrashTakesBackWhatWasNotSynced(t *testing.T) {
 		// What was taken back may happen again.
 		again := min(len(lines)-synced, impl.MaxDesk-len(turns)-1)
 		turns = append(turns, allOk(lines[synced:synced+again])...)
-		wantTurns(t, append(turns, turn{"ask count", fmt.Sprint(synced + again)})...)
+		wantTurns(t, append(turns, turn{"ask count", fmt.Sprintf(":%d", synced+again)})...)
 	}
 }
 
@@ -230,7 +230,7 @@ func TestACrashLeavesWholeLines(t *testing.T) {
 				place--
 			}
 			left := l.stops[place].service.Events
-			want := deskText(fmt.Sprintf("events %d", len(left)), fmt.Sprintf("events %d", len(left)), fmt.Sprint(len(left)))
+			want := deskText(fmt.Sprintf("events %d", len(left)), fmt.Sprintf("events %d", len(left)), fmt.Sprintf(":%d", len(left)))
 			got := impl.DeskRun(deskText(append(desk, fmt.Sprintf("crash %d", keep), "crash 0", "ask count")...))
 			if got.Code != impl.OK || !strings.HasSuffix(got.Text, "\nok\n"+want) && !strings.HasSuffix(got.Text, "\nsynced\n"+want) {
 				t.Errorf("%d lines synced, %d bytes kept: got %q, want %q at its end", synced, keep, got.Text, want)
